@@ -27,19 +27,20 @@ func (c *coordinator) begin(deal int, w *World) {
 
 func (c *coordinator) receive(m Message, w *World) {
 	x := &c.matters[m.Deal-1]
-	switch (event{m.Kind, x.state}) {
-	case event{Yes, Asking}:
+	e := event{m.Kind, x.state}
+	switch {
+	case e == event{Yes, Asking}:
 		if x.hears(m.From) {
 			c.save(record{kind: decided, deal: m.Deal})
 			c.turn(m.Deal, Doing, w)
 		}
-	case event{Yes, Doing}:
+	case e == event{Yes, Doing}:
 		c.tell(m.From, Do, m.Deal, w)
-	case event{Yes, Dropping}, event{Yes, Over}, event{Yes, Unknown}:
+	case e == event{Yes, Dropping}, e == event{Yes, Over}, e == event{Yes, Unknown}:
 		c.tell(m.From, Drop, m.Deal, w)
-	case event{No, Asking}:
+	case e == event{No, Asking}:
 		c.turn(m.Deal, Dropping, w)
-	case event{Ack, Doing}, event{Ack, Dropping}:
+	case e == event{Ack, Doing}, e == event{Ack, Dropping}:
 		if x.hears(m.From) {
 			c.turn(m.Deal, Over, w)
 		}

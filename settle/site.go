@@ -58,20 +58,21 @@ func (s *site) free() []int64 {
 
 func (s *site) receive(m Message, w *World) {
 	moved := w.deals[m.Deal-1].legs()[s.number-1]
-	switch (event{m.Kind, s.marks()[m.Deal]}) {
-	case event{Ask, unmarked}:
+	e := event{m.Kind, s.marks()[m.Deal]}
+	switch {
+	case e == event{Ask, unmarked}:
 		s.vote(m.Deal, moved, w)
-	case event{Ask, Prepared}, event{Ask, Done}:
+	case e == event{Ask, Prepared}, e == event{Ask, Done}:
 		s.tell(Yes, m.Deal, w)
-	case event{Ask, Dropped}:
+	case e == event{Ask, Dropped}:
 		s.tell(No, m.Deal, w)
-	case event{Do, Prepared}:
+	case e == event{Do, Prepared}:
 		s.save(record{Done, m.Deal, moved})
 		s.tell(Ack, m.Deal, w)
-	case event{Drop, Prepared}:
+	case e == event{Drop, Prepared}:
 		s.save(record{Dropped, m.Deal, moved})
 		s.tell(Ack, m.Deal, w)
-	case event{Do, Done}, event{Drop, Dropped}, event{Drop, unmarked}:
+	case e == event{Do, Done}, e == event{Drop, Dropped}, e == event{Drop, unmarked}:
 		s.tell(Ack, m.Deal, w)
 	}
 }
